@@ -1,0 +1,1 @@
+"""Lines that wait: how many calls are lost, how long customers wait."""

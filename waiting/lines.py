@@ -1,0 +1,30 @@
+"""Lines to which calls come, told exactly over whole numbers."""
+
+MOST_LINES = 256
+MOST_LOAD = 1000000000
+MILLION = 1000000
+ROUNDED_ONE = 1000000000
+
+
+def rounded(top, bottom):
+    """Top over bottom (0 or more, above 0), times ROUNDED_ONE, to a whole number, a half to the even one."""
+    scaled = top * ROUNDED_ONE
+    whole = scaled // bottom
+    twice_rest = 2 * (scaled % bottom)
+    if twice_rest > bottom or (twice_rest == bottom and whole % 2 == 1):
+        return whole + 1
+    return whole
+
+
+def wl_lost(c, a):
+    """The part that is lost of c lines under a load of a millionths: [0, it rounded], or [-2]."""
+    if c < 1 or c > MOST_LINES or a > MOST_LOAD:
+        return [-2]
+    # At step k the load's k-th power over k!, and the sum of these up to k, are both held
+    # times MILLION^k * k!: so they stay whole, and one over the other is what it was.
+    top = 1
+    bottom = 1
+    for k in range(1, c + 1):
+        top = top * a
+        bottom = bottom * MILLION * k + top
+    return [0, rounded(top, bottom)]
