@@ -1,33 +1,13 @@
 """wl_lost, held against the document's formula computed with fractions."""
 
-import contextlib
-import copy
-import inspect
-import io
 import unittest
 from fractions import Fraction
-from math import factorial
 
-from waiting import lines
+from tests.answers import Answers
+from tests.exact import exact_lost, nearest_even
 from waiting.lines import rounded, wl_lost
 
 MOST = 4294967295
-
-
-def exact_lost(c, a):
-    load = Fraction(a, 1000000)
-    total = sum(load ** k / factorial(k) for k in range(c + 1))
-    return load ** c / factorial(c) / total
-
-
-def nearest_even(exact):
-    """Exact times 1000000000 to a whole number, by the distances to its two neighbours."""
-    scaled = exact * 1000000000
-    below = scaled.numerator // scaled.denominator
-    to_below, to_above = scaled - below, below + 1 - scaled
-    if to_below == to_above:
-        return below if below % 2 == 0 else below + 1
-    return below if to_below < to_above else below + 1
 
 
 class Ordinary(unittest.TestCase):
@@ -147,61 +127,23 @@ class Halves(unittest.TestCase):
             self.assertEqual(rounded(top, bottom), whole)
 
 
-class Answers(unittest.TestCase):
+class OfLost(Answers, unittest.TestCase):
+    call = staticmethod(wl_lost)
+    signature = "(c, a)"
     taken = ((1, 0), (1, 1), (1, 638400), (2, 1000000), (40, 33000000), (256, 0), (256, 1000000000))
-    refused = ((0, 0), (0, 1), (257, 1), (MOST, 1), (1, 1000000001), (1, MOST), (0, MOST), (MOST, MOST))
+    refused = (
+        ((0, 0), -2), ((0, 1), -2), ((257, 1), -2), ((MOST, 1), -2), ((1, 1000000001), -2), ((1, MOST), -2),
+        ((0, MOST), -2), ((MOST, MOST), -2),
+    )
 
-    def test_a_refusal_is_its_number_alone(self):
-        for c, a in self.refused:
-            answer = wl_lost(c, a)
-            self.assertIs(type(answer), list)
-            self.assertEqual(answer, [-2])
-            self.assertIs(type(answer[0]), int)
-
-    def test_any_other_answer_has_two_numbers(self):
+    def test_the_first_number_is_0(self):
         for c, a in self.taken:
             answer = wl_lost(c, a)
-            self.assertIs(type(answer), list)
-            self.assertEqual([type(number) for number in answer], [int, int])
             self.assertEqual(answer[0], 0)
-            self.assertTrue(0 <= answer[1] <= 1000000000)
+            self.assertLessEqual(answer[1], 1000000000)
 
-    def test_names_of_the_arguments(self):
-        self.assertEqual(str(inspect.signature(wl_lost)), "(c, a)")
+    def test_arguments_by_name(self):
         self.assertEqual(wl_lost(a=1000000, c=2), [0, 200000000])
-
-    def test_again_the_same(self):
-        first = [wl_lost(c, a) for c, a in self.taken + self.refused]
-        again = [wl_lost(c, a) for c, a in self.taken + self.refused]
-        backwards = [wl_lost(c, a) for c, a in reversed(self.taken + self.refused)]
-        self.assertEqual(first, again)
-        self.assertEqual(first, backwards[::-1])
-
-    def test_an_answer_is_the_callers_own(self):
-        for c, a in self.taken + self.refused:
-            answer = wl_lost(c, a)
-            kept = list(answer)
-            answer.append(5)
-            answer[0] = 9
-            self.assertEqual(wl_lost(c, a), kept)
-
-    def test_nothing_is_kept(self):
-        def state():
-            values = {name: value for name, value in vars(lines).items() if not name.startswith("__")}
-            attributes = {name: dict(vars(value)) for name, value in values.items() if inspect.isfunction(value)}
-            return copy.deepcopy((values, attributes))
-
-        before = state()
-        for c, a in self.taken + self.refused:
-            wl_lost(c, a)
-        self.assertEqual(state(), before)
-
-    def test_nothing_is_printed(self):
-        out, err = io.StringIO(), io.StringIO()
-        with contextlib.redirect_stdout(out), contextlib.redirect_stderr(err):
-            for c, a in self.taken + self.refused:
-                wl_lost(c, a)
-        self.assertEqual((out.getvalue(), err.getvalue()), ("", ""))
 
 
 if __name__ == "__main__":

@@ -16,10 +16,12 @@ def rounded(top, bottom):
     return whole
 
 
-def wl_lost(c, a):
-    """The part that is lost of c lines under a load of a millionths: [0, it rounded], or [-2]."""
-    if c < 1 or c > MOST_LINES or a > MOST_LOAD:
-        return [-2]
+def out_of_range(c, a):
+    return c < 1 or c > MOST_LINES or a > MOST_LOAD
+
+
+def lost_part(c, a):
+    """The exact part that is lost of c lines under a load of a millionths, as a pair: it is top over bottom."""
     # At step k the load's k-th power over k!, and the sum of these up to k, are both held
     # times MILLION^k * k!: so they stay whole, and one over the other is what it was.
     top = 1
@@ -27,4 +29,26 @@ def wl_lost(c, a):
     for k in range(1, c + 1):
         top = top * a
         bottom = bottom * MILLION * k + top
-    return [0, rounded(top, bottom)]
+    return (top, bottom)
+
+
+def wl_lost(c, a):
+    """The part that is lost of c lines under a load of a millionths: [0, it rounded], or [-2]."""
+    if out_of_range(c, a):
+        return [-2]
+    lost = lost_part(c, a)
+    return [0, rounded(lost[0], lost[1])]
+
+
+def wl_waits(c, a):
+    """The part that waits at c lines under a load of a millionths: [0, it rounded], or [-2] or [-6]."""
+    if out_of_range(c, a):
+        return [-2]
+    if a >= c * MILLION:
+        return [-6]
+    lost = lost_part(c, a)
+    top = lost[0]
+    bottom = lost[1]
+    # c * lost over c - load * (1 - lost), both times MILLION * bottom: so they are whole.
+    # The second is above 0, for the load is below c.
+    return [0, rounded(c * MILLION * top, c * MILLION * bottom - a * (bottom - top))]

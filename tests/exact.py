@@ -1,0 +1,26 @@
+"""The document's formulas, computed with fractions, for the tests to hold the program against."""
+
+from fractions import Fraction
+from math import factorial
+
+
+def exact_lost(c, a):
+    load = Fraction(a, 1000000)
+    total = sum(load ** k / factorial(k) for k in range(c + 1))
+    return load ** c / factorial(c) / total
+
+
+def exact_waits(c, a):
+    load = Fraction(a, 1000000)
+    lost = exact_lost(c, a)
+    return c * lost / (c - load * (1 - lost))
+
+
+def nearest_even(exact):
+    """Exact times 1000000000 to a whole number, by the distances to its two neighbours."""
+    scaled = exact * 1000000000
+    below = scaled.numerator // scaled.denominator
+    to_below, to_above = scaled - below, below + 1 - scaled
+    if to_below == to_above:
+        return below if below % 2 == 0 else below + 1
+    return below if to_below < to_above else below + 1
