@@ -16,6 +16,17 @@ def exact_waits(c, a):
     return c * lost / (c - load * (1 - lost))
 
 
+def exact_need(a, p):
+    """The least c, each c from 0 on being asked, with the terms and their sum carried along."""
+    load, limit = Fraction(a, 1000000), Fraction(p, 1000000000)
+    c, term, total = 0, Fraction(1), Fraction(1)
+    while term / total > limit:
+        c += 1
+        term = term * load / c
+        total += term
+    return c
+
+
 def nearest_even(exact):
     """Exact times 1000000000 to a whole number, by the distances to its two neighbours."""
     scaled = exact * 1000000000

@@ -20,16 +20,21 @@ def out_of_range(c, a):
     return c < 1 or c > MOST_LINES or a > MOST_LOAD
 
 
+def one_more_line(lost, k, a):
+    """The part that is lost of k lines, from that of k - 1: both exact, as a pair, top over bottom."""
+    # The load's k-th power over k!, and the sum of these up to k, are both held times
+    # MILLION^k * k!: so they stay whole, and one over the other is what it was.
+    top = lost[0] * a
+    return (top, lost[1] * MILLION * k + top)
+
+
 def lost_part(c, a):
-    """The exact part that is lost of c lines under a load of a millionths, as a pair: it is top over bottom."""
-    # At step k the load's k-th power over k!, and the sum of these up to k, are both held
-    # times MILLION^k * k!: so they stay whole, and one over the other is what it was.
-    top = 1
-    bottom = 1
+    """The exact part that is lost of c lines under a load of a millionths, as a pair, top over bottom."""
+    # Of 0 lines all is lost.
+    lost = (1, 1)
     for k in range(1, c + 1):
-        top = top * a
-        bottom = bottom * MILLION * k + top
-    return (top, bottom)
+        lost = one_more_line(lost, k, a)
+    return lost
 
 
 def wl_lost(c, a):
@@ -52,3 +57,16 @@ def wl_waits(c, a):
     # c * lost over c - load * (1 - lost), both times MILLION * bottom: so they are whole.
     # The second is above 0, for the load is below c.
     return [0, rounded(c * MILLION * top, c * MILLION * bottom - a * (bottom - top))]
+
+
+def wl_need(a, p):
+    """The least number of lines of which no more is lost than p thousand-millionths: [it], or [-2]."""
+    if a > MOST_LOAD or p < 1 or p > ROUNDED_ONE:
+        return [-2]
+    c = 0
+    lost = lost_part(c, a)
+    # Compared exactly, not rounded. It ends: with each line less is lost, in the end less than any p above 0.
+    while lost[0] * ROUNDED_ONE > p * lost[1]:
+        c = c + 1
+        lost = one_more_line(lost, c, a)
+    return [c]
