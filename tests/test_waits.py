@@ -135,8 +135,8 @@ class Edges(unittest.TestCase):
 
 
 class Halves(unittest.TestCase):
-    # A search through every c and a found no half. These are the nearest of 2 to 10 lines: below
-    # a half, which go down, and above it, which go up, by 0.0000005 or less.
+    # A search through every c and a found no half. These are close to one, by less than 0.000001:
+    # below it, so that they go down, and above it, so that they go up.
     below = ((2, 1854907, 892545521), (2, 1266683, 491166673), (2, 1090969, 385061564), (3, 1659974, 297106810),
              (4, 2150809, 213101745), (10, 4819519, 28932770))
     above = ((2, 1355979, 547881571), (3, 2752813, 848369755), (4, 2158864, 215314018), (4, 2494460, 317992709),
