@@ -15,6 +15,16 @@ def state():
     return copy.deepcopy((values, attributes))
 
 
+class Unchanged(list):
+    """A list of which every change fails, also one that's taken back again."""
+
+    def refuse(self, *arguments, **named):
+        raise AssertionError("what is handed in is changed")
+
+    append = clear = extend = insert = pop = remove = reverse = sort = refuse
+    __setitem__ = __delitem__ = __iadd__ = __imul__ = refuse
+
+
 class Answers:
     """A class with this gives: call, signature, taken (arguments) and refused (arguments, the refusal's number)."""
 
@@ -58,6 +68,20 @@ class Answers:
             answer.append(5)
             answer[0] = 9
             self.assertEqual(self.call(*arguments), kept)
+
+    def test_what_is_handed_in_is_not_changed(self):
+        for arguments in self.every():
+            before = copy.deepcopy(arguments)
+            answer = self.call(*arguments)
+            self.assertEqual(arguments, before)
+            answer.append(5)
+            answer[0] = 9
+            self.assertEqual(arguments, before)
+
+    def test_what_is_handed_in_is_not_changed_for_a_while(self):
+        for arguments in self.every():
+            watched = [Unchanged(value) if isinstance(value, list) else value for value in arguments]
+            self.assertEqual(self.call(*watched), self.call(*arguments))
 
     def test_nothing_is_kept(self):
         before = state()

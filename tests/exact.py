@@ -27,6 +27,28 @@ def exact_need(a, p):
     return c
 
 
+def goes(up, down, parts, i):
+    """How much goes from state i, up and down."""
+    n = len(up)
+    return (parts[i] * up[i] if i < n else 0) + (parts[i] * down[i - 1] if i > 0 else 0)
+
+
+def comes(up, down, parts, i):
+    """How much comes to state i, from below and from above."""
+    n = len(up)
+    return (parts[i - 1] * up[i - 1] if i > 0 else 0) + (parts[i + 1] * down[i] if i < n else 0)
+
+
+def exact_chain(up, down):
+    """The parts: state i says how often it's in i + 1, for what goes from i has to come to it."""
+    parts = [Fraction(1)]
+    for i in range(len(up)):
+        from_below = parts[i - 1] * up[i - 1] if i > 0 else 0
+        parts.append((goes(up, down, parts, i) - from_below) / down[i])
+    total = sum(parts)
+    return [part / total for part in parts]
+
+
 def nearest_even(exact):
     """Exact times 1000000000 to a whole number, by the distances to its two neighbours."""
     scaled = exact * 1000000000

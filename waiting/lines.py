@@ -1,9 +1,11 @@
-"""Lines to which calls come, told exactly over whole numbers."""
+"""Lines to which calls come, and chains of states, told exactly over whole numbers."""
 
 MOST_LINES = 256
 MOST_LOAD = 1000000000
 MILLION = 1000000
 ROUNDED_ONE = 1000000000
+MOST_STEPS = 256
+FASTEST = 1000000
 
 
 def rounded(top, bottom):
@@ -70,3 +72,33 @@ def wl_need(a, p):
         c = c + 1
         lost = one_more_line(lost, c, a)
     return [c]
+
+
+def too_slow_or_fast(speeds):
+    return min(speeds) < 1 or max(speeds) > FASTEST
+
+
+def chain_weights(up, down):
+    """Whole numbers, one for each state, that stand to one another as the parts do."""
+    # State 0 is given the product of all of down: so each division below leaves no rest.
+    weight = 1
+    for speed in down:
+        weight = weight * speed
+    weights = [weight]
+    # State 0 has no other way than that to 1, so as much goes there as comes back; and so on, state by state.
+    for i in range(len(up)):
+        weight = weight // down[i] * up[i]
+        weights.append(weight)
+    return weights
+
+
+def wl_chain(up, down):
+    """How often it is in each of the states 0 to n: [0, n + 1 parts rounded], or [-2] or [-1]."""
+    n = len(up)
+    if n < 1 or n > MOST_STEPS:
+        return [-2]
+    if too_slow_or_fast(up) or too_slow_or_fast(down):
+        return [-1]
+    weights = chain_weights(up, down)
+    total = sum(weights)
+    return [0] + [rounded(weight, total) for weight in weights]
