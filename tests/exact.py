@@ -49,6 +49,30 @@ def exact_chain(up, down):
     return [part / total for part in parts]
 
 
+def plain_run(c, come, need):
+    """When each begins: customer by customer, with when each server is free, the one that's free first in front."""
+    servers, begins = [0] * c, []
+    for there, long in zip(come, need, strict=True):
+        servers.sort()
+        begins.append(there if there > servers[0] else servers[0])
+        servers[0] = begins[-1] + long
+    return begins
+
+
+def run_by_ticks(c, come, need):
+    """When each begins: time by time from 0 on, who is there begins, in order, as long as a server is free."""
+    servers, begins, time = [0] * c, [], 0
+    while len(begins) < len(come):
+        free = [k for k in range(c) if servers[k] <= time]
+        if free and come[len(begins)] <= time:
+            # Not the one that's free first, but the last of the list: the times have to be the same.
+            servers[free[-1]] = time + need[len(begins)]
+            begins.append(time)
+        else:
+            time += 1
+    return begins
+
+
 def nearest_even(exact):
     """Exact times 1000000000 to a whole number, by the distances to its two neighbours."""
     scaled = exact * 1000000000

@@ -4,7 +4,7 @@ import random
 import unittest
 from fractions import Fraction
 
-from tests.answers import Answers
+from tests.answers import Answers, LongLists
 from tests.exact import comes, exact_chain, goes, nearest_even
 from waiting.lines import wl_chain
 
@@ -18,7 +18,7 @@ def mixed(n, seed, most=FASTEST):
     return [numbers.randint(1, most) for i in range(n)]
 
 
-class Against(unittest.TestCase):
+class Against(LongLists, unittest.TestCase):
     def check(self, up, down):
         n = len(up)
         with self.subTest(up=up, down=down):

@@ -80,6 +80,17 @@ class Form(unittest.TestCase):
                 plain = node.args.vararg is None and node.args.kwarg is None
                 self.assertTrue(plain and not node.args.kwonlyargs and not node.args.posonlyargs, (name, node.name))
 
+    def test_no_function_calls_itself_in_whatever_many_steps(self):
+        # What is as long as its input is gone through by loops: each function calls only those above it.
+        for path in package_files():
+            top = ast.parse(path.read_text(encoding="ascii")).body
+            functions = [node for node in top if isinstance(node, ast.FunctionDef)]
+            for place, function in enumerate(functions):
+                not_above = [other.name for other in functions[place:]]
+                for node in ast.walk(function):
+                    if isinstance(node, ast.Name):
+                        self.assertNotIn(node.id, not_above, (path.name, function.name))
+
     def test_names(self):
         own = dir(builtins)
         for name, node in self.walk():

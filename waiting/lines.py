@@ -1,4 +1,4 @@
-"""Lines to which calls come, and chains of states, told exactly over whole numbers."""
+"""Lines to which calls come, chains of states, and customers at servers, told exactly over whole numbers."""
 
 MOST_LINES = 256
 MOST_LOAD = 1000000000
@@ -6,6 +6,9 @@ MILLION = 1000000
 ROUNDED_ONE = 1000000000
 MOST_STEPS = 256
 FASTEST = 1000000
+MOST_SERVERS = 64
+MOST_CUSTOMERS = 65536
+LAST_TIME = 4611686018427387904
 
 
 def rounded(top, bottom):
@@ -102,3 +105,30 @@ def wl_chain(up, down):
     weights = chain_weights(up, down)
     total = sum(weights)
     return [0] + [rounded(weight, total) for weight in weights]
+
+
+def in_order(come):
+    """Whether none of these times is below the one before it, or above LAST_TIME, which is 2^62."""
+    before = 0
+    for moment in come:
+        if moment < before or moment > LAST_TIME:
+            return False
+        before = moment
+    return True
+
+
+def wl_run(c, come, need):
+    """When each customer begins, at c servers: [0, n times], or [-2] or [-1]."""
+    if c < 1 or c > MOST_SERVERS or len(come) > MOST_CUSTOMERS:
+        return [-2]
+    if not in_order(come):
+        return [-1]
+    free = [0] * c
+    answer = [0]
+    for i in range(len(come)):
+        first = min(free)
+        begin = max(come[i], first)
+        # Of servers free at one time it's all the same which is taken.
+        free[free.index(first)] = begin + need[i]
+        answer.append(begin)
+    return answer
